@@ -1,0 +1,26 @@
+package tests
+
+import (
+	"testing"
+
+	"loop.example/cordillera/impl"
+)
+
+func TestLimitsAreThoseOfTheDocument(t *testing.T) {
+	limits := []struct {
+		name      string
+		got, want int
+	}{
+		{"RiceMax", impl.RiceMax, 60000},
+		{"ListMax", impl.ListMax, 40},
+		{"BytesMax", impl.BytesMax, 600},
+		{"ItemLong", impl.ItemLong, 8},
+		{"FilterMany", impl.FilterMany, 37},
+		{"FilterBits", impl.FilterBits, 5},
+	}
+	for _, l := range limits {
+		if l.got != l.want {
+			t.Errorf("%s is %d, not %d", l.name, l.got, l.want)
+		}
+	}
+}
