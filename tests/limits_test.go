@@ -17,6 +17,14 @@ func TestLimitsAreThoseOfTheDocument(t *testing.T) {
 		{"ItemLong", impl.ItemLong, 8},
 		{"FilterMany", impl.FilterMany, 37},
 		{"FilterBits", impl.FilterBits, 5},
+		{"TimeMax", impl.TimeMax, 99999},
+		{"DiffMax", impl.DiffMax, 8},
+		{"NonceMax", impl.NonceMax, 400},
+		{"ItemMax", impl.ItemMax, 6},
+		{"SideMax", impl.SideMax, 8},
+		{"ChainMax", impl.ChainMax, 20},
+		{"SpanLow", impl.SpanLow, 20},
+		{"SpanHigh", impl.SpanHigh, 60},
 	}
 	for _, l := range limits {
 		if l.got != l.want {

@@ -44,10 +44,10 @@ func TestNothingIsWrittenIntoAnArgument(t *testing.T) {
 }
 
 // spoil overwrites a list and its spare room.
-func spoil(list []int) {
+func spoil[T any](list []T, with T) {
 	list = list[:cap(list)]
 	for i := range list {
-		list[i] = -99
+		list[i] = with
 	}
 }
 
@@ -59,20 +59,20 @@ func TestAnAnswerIsNewMemory(t *testing.T) {
 	for range 3 {
 		first, _ := impl.FilterGet(s)
 		second, _ := impl.FilterGet(s)
-		spoil(first)
+		spoil(first, -99)
 		if !slices.Equal(second, want) {
 			t.Fatalf("FilterGet shares memory: %d, not %d", second, want)
 		}
 		first, _ = impl.RiceGet(s[1:], 5, impl.FilterBits)
 		second, _ = impl.RiceGet(s[1:], 5, impl.FilterBits)
-		spoil(first)
+		spoil(first, -99)
 		if !slices.Equal(second, steps) {
 			t.Fatalf("RiceGet shares memory: %d, not %d", second, steps)
 		}
 		none, _ := impl.FilterGet("\x00")
-		spoil(none)
+		spoil(none, -99)
 		none, _ = impl.RiceGet("", 0, 5)
-		spoil(none)
+		spoil(none, -99)
 	}
 }
 
