@@ -25,6 +25,7 @@ func TestLimitsAreThoseOfTheDocument(t *testing.T) {
 		{"ChainMax", impl.ChainMax, 20},
 		{"SpanLow", impl.SpanLow, 20},
 		{"SpanHigh", impl.SpanHigh, 60},
+		{"SampleMax", impl.SampleMax, 6},
 	}
 	for _, l := range limits {
 		if l.got != l.want {
