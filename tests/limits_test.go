@@ -26,6 +26,16 @@ func TestLimitsAreThoseOfTheDocument(t *testing.T) {
 		{"SpanLow", impl.SpanLow, 20},
 		{"SpanHigh", impl.SpanHigh, 60},
 		{"SampleMax", impl.SampleMax, 6},
+		{"PageMax", impl.PageMax, 6},
+		{"CacheMax", impl.CacheMax, 4},
+		{"PeerMax", impl.PeerMax, 3},
+		{"TokenMax", impl.TokenMax, 8},
+		{"AskHeads", impl.AskHeads, 1},
+		{"AskFilters", impl.AskFilters, 2},
+		{"AskMarks", impl.AskMarks, 3},
+		{"AskBlock", impl.AskBlock, 4},
+		{"AskSample", impl.AskSample, 5},
+		{"ReplyBusy", impl.ReplyBusy, 9},
 	}
 	for _, l := range limits {
 		if l.got != l.want {
