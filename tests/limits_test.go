@@ -36,6 +36,18 @@ func TestLimitsAreThoseOfTheDocument(t *testing.T) {
 		{"AskBlock", impl.AskBlock, 4},
 		{"AskSample", impl.AskSample, 5},
 		{"ReplyBusy", impl.ReplyBusy, 9},
+		{"TryMax", impl.TryMax, 8},
+		{"PeersMax", impl.PeersMax, 5},
+		{"LieNone", impl.LieNone, 0},
+		{"LieMarks", impl.LieMarks, 1},
+		{"LieFilter", impl.LieFilter, 2},
+		{"LieMute", impl.LieMute, 3},
+		{"LieHeads", impl.LieHeads, 4},
+		{"LieBlock", impl.LieBlock, 5},
+		{"LieShort", impl.LieShort, 6},
+		{"ClientFine", impl.ClientFine, 0},
+		{"ClientForm", impl.ClientForm, 1},
+		{"ClientNobody", impl.ClientNobody, 2},
 	}
 	for _, l := range limits {
 		if l.got != l.want {
