@@ -48,6 +48,8 @@ func TestLimitsAreThoseOfTheDocument(t *testing.T) {
 		{"ClientFine", impl.ClientFine, 0},
 		{"ClientForm", impl.ClientForm, 1},
 		{"ClientNobody", impl.ClientNobody, 2},
+		{"ChainsMax", impl.ChainsMax, 4},
+		{"SessionMax", impl.SessionMax, 60},
 	}
 	for _, l := range limits {
 		if l.got != l.want {
