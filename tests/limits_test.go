@@ -50,6 +50,7 @@ func TestLimitsAreThoseOfTheDocument(t *testing.T) {
 		{"ClientNobody", impl.ClientNobody, 2},
 		{"ChainsMax", impl.ChainsMax, 4},
 		{"SessionMax", impl.SessionMax, 60},
+		{"TreeMax", impl.TreeMax, 24},
 	}
 	for _, l := range limits {
 		if l.got != l.want {
